@@ -1,4 +1,4 @@
-// Package rules_test holds every package of the program against shared/LANGUAGE.md and the map of shared/DOC.md, as far as the text of the code shows it.
+// Package rules_test checks, in every layer, those rules of shared/LANGUAGE.md that the text of the code shows (imports, printing, compiler comments, length of functions, layout), and the map of shared/DOC.md.
 package rules_test
 
 import (
